@@ -57,5 +57,24 @@ func allBytes() string {
 	return string(text)
 }
 
+// changesOf is all texts that come of a text, if it is cut off, or one byte is another one, is gone, or is new.
+func changesOf(text string) []string {
+	list := []string{text + text}
+	for i := 0; i <= len(text); i++ {
+		list = append(list, text[:i], text[i:])
+		if i < len(text) {
+			list = append(list, text[:i]+text[i+1:])
+		}
+		for b := range 256 {
+			byteText := string([]byte{byte(b)})
+			list = append(list, text[:i]+byteText+text[i:])
+			if i < len(text) {
+				list = append(list, text[:i]+byteText+text[i+1:])
+			}
+		}
+	}
+	return list
+}
+
 // ends are numbers at both ends of the range of int, some of which add up to small ones by wrapping around.
 var ends = []int{math.MinInt, math.MinInt + 1, math.MinInt / 2, math.MaxInt / 2, math.MaxInt - 1, math.MaxInt}
