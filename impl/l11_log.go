@@ -59,14 +59,16 @@ func LogOk(log string) bool {
 // LogTorn is what is left of a log, if power is lost while a record is written: so many bytes of it.
 func LogTorn(log string, record string, bytes int) string {
 	whole, ok := LogAdd(log, record)
-	if !ok || bytes < 0 {
+	if !ok {
 		return log
 	}
-	// What is added is asked, not the sum with bytes, which might wrap around.
-	if bytes > len(whole)-len(log) {
-		return whole
-	}
-	return whole[:len(log)+bytes]
+	return logCut(log, whole, bytes)
+}
+
+// logCut is a longer log of which, behind a log with which it begins, just the first bytes are there.
+func logCut(log string, longer string, bytes int) string {
+	// What is added bounds the bytes first, as their sum with a size might wrap around.
+	return longer[:len(log)+min(max(bytes, 0), len(longer)-len(log))]
 }
 
 // add writes a record, as that of a place.
